@@ -62,6 +62,14 @@ func boardsOfHoles(random *rand.Rand, holes int, number int) []impl.Board {
 	return boards
 }
 
+// brokenSmallBoards returns boards for which BoardOk is false, many of them with at most 16 places.
+func brokenSmallBoards() []impl.Board {
+	return append(brokenBoards(),
+		impl.Board{Width: 2, Height: 8, Holes: 1<<16 - 1}, impl.Board{Width: 8, Height: 2, Holes: 7}, impl.Board{Width: 2, Height: 8, Holes: 21},
+		impl.Board{Width: 16, Height: 1, Holes: 7}, impl.Board{Width: 1, Height: 16, Holes: 7}, impl.Board{Width: 4, Height: 4, Holes: 1 << 16},
+		impl.Board{Width: 4, Height: 4}, impl.Board{Width: 4, Height: 4, Holes: -1}, impl.Board{Width: 3, Height: 1, Holes: 8 + 7})
+}
+
 // checkBack checks the list of positions, what is counted in it and the full boards that are in it.
 func checkBack(t *testing.T, b impl.Board, goal int, want ...int) {
 	t.Helper()
@@ -442,11 +450,7 @@ func TestBackOnLargeBoards(t *testing.T) {
 }
 
 func TestBackOnInvalidBoards(t *testing.T) {
-	boards := append(brokenBoards(),
-		impl.Board{Width: 2, Height: 8, Holes: 1<<16 - 1}, impl.Board{Width: 8, Height: 2, Holes: 7}, impl.Board{Width: 2, Height: 8, Holes: 21},
-		impl.Board{Width: 16, Height: 1, Holes: 7}, impl.Board{Width: 1, Height: 16, Holes: 7}, impl.Board{Width: 4, Height: 4, Holes: 1 << 16},
-		impl.Board{Width: 4, Height: 4}, impl.Board{Width: 4, Height: 4, Holes: -1}, impl.Board{Width: 3, Height: 1, Holes: 8 + 7})
-	for _, b := range boards {
+	for _, b := range brokenSmallBoards() {
 		for _, goal := range append(greatInts(), 0, 1, 3, 4, 7, -1, b.Holes, -b.Holes) {
 			if got := impl.BackOf(b, goal); len(got) != 0 || impl.CountBack(b, goal) != 0 || len(impl.StartsFor(b, goal)) != 0 {
 				t.Errorf("%v, %d: BackOf %v, CountBack %d, StartsFor %v", b, goal, got, impl.CountBack(b, goal), impl.StartsFor(b, goal))
